@@ -100,8 +100,26 @@ func TestLoseAndTwiceAlone(t *testing.T) {
 	})
 }
 
-// TestCalmMost: no round changes nothing; CalmMost rounds are executed, up to the last one; one more makes it the zero value.
-func TestCalmMost(t *testing.T) {
+// TestPromise50: for every system no round changes nothing, rounds leave the list of operations as it is, and too many rounds give the zero value.
+func TestPromise50(t *testing.T) {
+	everyWorld(t, 715, func(r *rand.Rand, w impl.WldWorld) {
+		if r.Intn(14) > 0 {
+			return
+		}
+		for _, n := range []int{0, -1 - r.Intn(1000)} {
+			wantWorld(t, fmt.Sprint(n, " rounds"), impl.WldCalm(w, n), w)
+		}
+		for _, n := range []int{1, 2 + r.Intn(impl.CalmMost-2), impl.CalmMost} {
+			if got := impl.WldCalm(w, n); !impl.WldOk(got) || !slices.Equal(got.Ops, w.Ops) {
+				t.Fatalf("%d rounds: %v: got %v", n, w, got)
+			}
+		}
+		wantWorld(t, "too many rounds", impl.WldCalm(w, impl.CalmMost+1+r.Intn(1000)), impl.WldWorld{})
+	})
+}
+
+// TestPromise50Edges: no round changes nothing; CalmMost rounds are executed, up to the last one; one more makes it the zero value.
+func TestPromise50Edges(t *testing.T) {
 	for _, w := range []impl.WldWorld{impl.WldNew(), goodWorld()} {
 		for _, n := range []int{0, -1, -2, -impl.CalmMost, -1 << 63} {
 			wantWorld(t, fmt.Sprint(n, " rounds"), impl.WldCalm(w, n), w)
@@ -115,12 +133,28 @@ func TestCalmMost(t *testing.T) {
 	}
 }
 
-// calmEvents lists the events of one calm round: how many messages are heard is counted when each of the four times begins.
+// TestPromise50Invalid: an invalid system gives the zero value, whatever the number of rounds is, none and too many among them.
+func TestPromise50Invalid(t *testing.T) {
+	list := []impl.WldWorld{{}, withOps(goodWorld()), withDisks(goodWorld(), goodWorld().Disks[:2]...), withNet(idle(1), noise(impl.NetMost+1)...), idle(impl.TxMost + 2)}
+	list = append(list, withDisk(goodWorld(), 1, allSafe(end(0))), withFront(goodWorld(), front(disk(0, no(0)))), withOuts(goodWorld(), impl.FroOut{Tx: 4}))
+	for i, w := range list {
+		for n := -2; n <= impl.CalmMost+2; n++ {
+			wantWorld(t, fmt.Sprint("system ", i, ", ", n, " rounds"), impl.WldCalm(w, n), impl.WldWorld{})
+		}
+	}
+}
+
+// calmEvents lists the events of one calm round: each place has its tick and, before the next place has its own, four times in which messages are heard; how many is counted when each time begins.
 func calmEvents(w impl.WldWorld) []impl.EvEvent {
-	events := []impl.EvEvent{evTick(0), evTick(1), evTick(2), evTick(3)}
-	for range 4 {
-		n := len(impl.WldRun(w, events).Net)
-		events = append(events, hears(n)...)
+	var events []impl.EvEvent
+	add := func(list ...impl.EvEvent) {
+		events, w = append(events, list...), impl.WldRun(w, list)
+	}
+	for place := range impl.PlcMany {
+		add(evTick(place))
+		for range 4 {
+			add(hears(len(w.Net))...)
+		}
 	}
 	return events
 }
@@ -155,7 +189,7 @@ func TestCalmRound(t *testing.T) {
 	}
 }
 
-// TestCalmTimes: the four times are enough for a question, the votes, the outcome and the acknowledgements; a round hears the answers that come up within it, though there were fewer messages at first.
+// TestCalmTimes: the four times behind the coordinator's tick are enough for a question, the votes, the outcome and the acknowledgements; a round hears the answers that come up within it, though there were fewer messages at first.
 func TestCalmTimes(t *testing.T) {
 	o := opLet(1, 2, 3, 7)
 	start := mustRun(t, impl.WldCalm(mustRun(t, impl.WldNew(), evDo(opIn(1, 2))), 1), evDo(o))
@@ -176,22 +210,90 @@ func TestCalmTimes(t *testing.T) {
 	}
 }
 
-// TestCalmTicks: the places repeat in their order, the coordinator first: where there is little room, its messages take it.
-func TestCalmTicks(t *testing.T) {
+// TestCalmPlaces: each place has its tick and its own four times before the next place has its tick: the audit service asks about the login that the crash has taken only when the other login is over.
+func TestCalmPlaces(t *testing.T) {
+	w := mustRun(t, impl.WldNew(), evDo(opIn(2, 1)), evHear(1), evHear(1), evFall(0, 1), evDo(opIn(2, 2)))
+	want := world(front(disk(1, yes(1), end(1))), logs(
+		disk(4, readyTo(0, set("s1", 2)), readyTo(1, set("s2", 2)), no(0), yes(1)),
+		disk(0),
+		disk(3, readyTo(0, set("a0", 1)), readyTo(1, set("a1", 1)), yes(1), no(0))), nil, []impl.OpOp{opIn(2, 1), opIn(2, 2)}, reported(1, true))
+	for _, n := range []int{1, 2, impl.CalmMost} {
+		wantWorld(t, fmt.Sprint(n, " rounds"), impl.WldCalm(w, n), want)
+	}
+}
+
+// doubtful has three committed transactions: all but the service at place tx-1 of a list have acknowledged tx, and that one is in doubt about it.
+func doubtful(places []int) impl.WldWorld {
+	w := withFront(idle(4), front(allSafe(yes(1), yes(2), yes(3))))
+	for i, place := range places {
+		tx := i + 1
+		w.Front.Way = append(w.Front.Way, told(tx, opIn(1, 2), nil, without(services(), []int{place})...))
+		w.Disks[place-1] = allSafe(ready(tx, nil))
+	}
+	return w
+}
+
+// TestCalmOrder: the coordinator is the first place, and ends the commits in the order of their numbers; where it has no room in the network, the services come after it, in their order.
+func TestCalmOrder(t *testing.T) {
+	for _, places := range [][]int{{1, 2, 3}, {1, 3, 2}, {2, 1, 3}, {2, 3, 1}, {3, 1, 2}, {3, 2, 1}} {
+		w := doubtful(places)
+		want := withFront(w, front(disk(3, yes(1), yes(2), yes(3), end(1), end(2), end(3))))
+		full := want
+		full.Front = front(disk(3, yes(1), yes(2), yes(3)))
+		for _, place := range services() {
+			tx := 1 + slices.Index(places, place)
+			want.Disks[place-1] = allSafe(ready(tx, nil), yes(tx))
+			full.Front.Disk.Notes = append(full.Front.Disk.Notes, end(tx))
+		}
+		wantWorld(t, fmt.Sprint(places), impl.WldCalm(w, 1), want)
+		wantWorld(t, fmt.Sprint(places, ", full"), impl.WldCalm(withNet(w, noise(impl.NetMost)...), 1), full)
+	}
+}
+
+// TestCalmRoom: where there is little room, that is so for what the coordinator repeats; when a service has its tick, the network is empty.
+func TestCalmRoom(t *testing.T) {
 	for n := 56; n <= impl.NetMost; n++ {
 		w := withNet(withFront(idle(4), front(allSafe(yes(1)), told(1, opIn(1, 2), []int{1, 3}, 1), waiting(2, opIn(3, 4), 1))), noise(n)...)
 		w.Disks = logs(disk(0, readyTo(3, set("s4", 1))), disk(0, readyTo(3, set("c4", 1, 1))), disk(0, readyTo(3, set("a3", 1))))
-		ticks := messages(yesAll(1, 2, 3), askAll(2, opIn(3, 4), 3), []impl.MsgMsg{msgWhat(1, 3), msgWhat(2, 3), msgWhat(3, 3)})
-		heard := withNet(w, messages(w.Net, ticks[:impl.NetMost-n])...)
-		for range 4 {
-			heard = modelRun(heard, hears(len(heard.Net)))
+		ticks := messages(yesAll(1, 2, 3), askAll(2, opIn(3, 4), 3))
+		heard := modelFour(withNet(w, messages(w.Net, ticks[:min(3, impl.NetMost-n)])...))
+		for _, place := range services() {
+			// The last service has, where there was room, prepared the transaction 2, and is told of its commit at once.
+			if open := modelOpen(heard.Disks[place-1].Notes); len(heard.Net) > 0 || !slices.Equal(open, []int{3}) {
+				t.Fatalf("%d messages: place %d: %v", n, place, heard)
+			}
+			heard = modelFour(withNet(heard, msgWhat(place, 3)))
 		}
 		wantWorld(t, fmt.Sprint(n, " messages"), impl.WldCalm(w, 1), heard)
 		wantWorld(t, fmt.Sprint(n, " messages, two rounds"), impl.WldCalm(w, 2), impl.WldCalm(heard, 1))
 	}
 }
 
-// TestCalmNoise: a full network is heard in one round, and only then is there room for what the places repeat.
+// TestCalmFourTimes: twenty votes commit twenty transactions, and their acknowledgements fill the network; only the fourth time makes room for the question of a service.
+func TestCalmFourTimes(t *testing.T) {
+	w, want := idle(21), world(front(disk(20)), nil, nil, nil, nil)
+	s0, asked := readyTo(0, set("s0", 1)), disk(40)
+	w.Disks[0] = allSafe(s0)
+	for tx := 1; tx <= 20; tx++ {
+		w.Front.Way = append(w.Front.Way, waiting(tx, w.Ops[tx], 1))
+		want.Front.Disk.Notes = append(want.Front.Disk.Notes, yes(tx))
+		want.Outs = append(want.Outs, reported(tx, true)...)
+		asked.Notes = append(asked.Notes, readyTo(tx, set(fmt.Sprint("a", tx), impl.OpIn)))
+	}
+	three := mustRun(t, w, append([]impl.EvEvent{evTick(0)}, hears(20+20+60)...)...)
+	if len(three.Net) != impl.NetMost || !slices.Equal(three.Net[:3], knowAll(1)) {
+		t.Fatalf("after three times: %v", three.Net)
+	}
+	for tx := 1; tx <= 20; tx++ {
+		want.Front.Disk.Notes = append(want.Front.Disk.Notes, end(tx))
+		asked.Notes = append(asked.Notes, yes(tx))
+	}
+	want.Disks, want.Ops = logs(disk(1, s0, no(0)), disk(0), asked), w.Ops
+	wantWorld(t, "one round", impl.WldCalm(w, 1), want)
+	wantWorld(t, "two rounds", impl.WldCalm(w, 2), want)
+}
+
+// TestCalmNoise: a full network is heard in one round, and only in the next one is there room for what the coordinator repeats.
 func TestCalmNoise(t *testing.T) {
 	o := opIn(1, 2)
 	w := withNet(mustRun(t, idle(1), evDo(o)), noise(impl.NetMost)...)

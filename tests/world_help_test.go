@@ -212,11 +212,18 @@ func modelRun(w impl.WldWorld, events []impl.EvEvent) impl.WldWorld {
 	return w
 }
 
+// modelFour hears four times what is in the network when each time begins.
+func modelFour(w impl.WldWorld) impl.WldWorld {
+	for range 4 {
+		w = modelRun(w, hears(len(w.Net)))
+	}
+	return w
+}
+
 func modelCalm(w impl.WldWorld, rounds int) impl.WldWorld {
 	for range rounds {
-		w = modelRun(w, []impl.EvEvent{evTick(0), evTick(1), evTick(2), evTick(3)})
-		for range 4 {
-			w = modelRun(w, hears(len(w.Net)))
+		for place := range impl.PlcMany {
+			w = modelFour(modelStep(w, evTick(place)))
 		}
 	}
 	return w
