@@ -14,21 +14,32 @@ func attempts() [][]impl.OpOp {
 	return append(commits(), []impl.OpOp{opOut(1, 2)}, []impl.OpOp{in, let, opTrade(3, 8, 4)}, []impl.OpOp{opLet(5, 6, 3, 7)}, []impl.OpOp{in, opLet(1, 2, 8, 7)})
 }
 
-// hearIf hears, in any order, all messages that are about transactions as wanted.
+// enough messages are heard, however an operation ends.
+const enough = 500
+
+// numbersOf lists which messages are as wanted.
+func numbersOf(net []impl.MsgMsg, wanted func(m impl.MsgMsg) bool) []int {
+	var out []int
+	for at, m := range net {
+		if wanted(m) {
+			out = append(out, at)
+		}
+	}
+	return out
+}
+
+// hearIf hears, in any order, all messages that are as wanted, and the answers to them.
 func hearIf(t *testing.T, r *rand.Rand, w impl.WldWorld, wanted func(m impl.MsgMsg) bool) impl.WldWorld {
 	t.Helper()
-	for {
-		var some []int
-		for at, m := range w.Net {
-			if wanted(m) {
-				some = append(some, at)
-			}
-		}
+	for range enough {
+		some := numbersOf(w.Net, wanted)
 		if len(some) == 0 {
 			return w
 		}
 		w = mustRun(t, w, evHear(some[r.Intn(len(some))]))
 	}
+	t.Fatalf("there are always more messages: %v", w)
+	return w
 }
 
 // watched starts the last one of some operations, as others are under way: two logins are committed and their acknowledgements are in the network; two authorizations were given up, and all three services are still to hear of that.
@@ -46,40 +57,32 @@ func watched(t *testing.T, r *rand.Rand, ops []impl.OpOp) (impl.WldWorld, int) {
 }
 
 // fails lets each place crash with no record left that is not forced, with one, and with all: the coordinator has logged that both logins are over, each service that both authorizations are aborted. Or the attempt is given up. Some more happens behind that.
-func (x troubles) fails(t *testing.T, w impl.WldWorld, tx int) {
-	t.Helper()
-	w = hearIf(t, x.r, w, func(m impl.MsgMsg) bool { return m.Tx != tx })
+func (x troubles) fails(w impl.WldWorld, tx int) {
+	x.t.Helper()
+	w = hearIf(x.t, x.r, w, func(m impl.MsgMsg) bool { return m.Tx != tx })
 	events := []impl.EvEvent{evGive(tx)}
 	for place := range impl.PlcMany {
 		events = append(events, evFall(place, -x.r.Intn(2)), evFall(place, 1), evFall(place, 3+x.r.Intn(2)*1000))
 	}
 	for _, e := range events {
-		s := stepOf(w, e)
-		x.step(s)
-		x.storm(s.after, anyWeather(x.r), 2)
+		x.storm(x.next(w, e), anyWeather(x.r), 2)
 	}
 }
 
 // everyFailure goes through the steps of all attempts, with the messages about them heard in three orders, and lets each of them fail.
-func (x troubles) everyFailure(t *testing.T) {
-	t.Helper()
+func (x troubles) everyFailure() {
+	x.t.Helper()
 	for _, ops := range attempts() {
 		for _, hearing := range hearings() {
-			w, tx := watched(t, x.r, ops)
-			for !t.Failed() {
-				x.fails(t, w, tx)
-				var about []int
-				for at, m := range w.Net {
-					if m.Tx == tx {
-						about = append(about, at)
-					}
-				}
-				if len(about) == 0 {
+			w, tx := watched(x.t, x.r, ops)
+			x.fails(w, tx)
+			for range enough {
+				about := numbersOf(w.Net, func(m impl.MsgMsg) bool { return m.Tx == tx })
+				if len(about) == 0 || x.t.Failed() {
 					break
 				}
-				s := stepOf(w, evHear(about[hearing(x.r, len(about))]))
-				x.step(s)
-				w = s.after
+				w = x.next(w, evHear(about[hearing(x.r, len(about))]))
+				x.fails(w, tx)
 			}
 		}
 	}
@@ -93,14 +96,14 @@ func rivals() (start, list []impl.OpOp) {
 }
 
 // everyPair starts each two of the rivals together, in any order of the messages.
-func (x troubles) everyPair(t *testing.T) {
-	t.Helper()
+func (x troubles) everyPair() {
+	x.t.Helper()
 	before, list := rivals()
-	start := played(t, impl.WldNew(), newModel(), before...)
+	start := played(x.t, impl.WldNew(), newModel(), before...)
 	for _, a := range list {
 		for _, b := range list {
 			for range 8 {
-				if x.pair(start, a, b); t.Failed() {
+				if x.pair(start, a, b); x.t.Failed() {
 					return
 				}
 			}
@@ -110,27 +113,21 @@ func (x troubles) everyPair(t *testing.T) {
 
 // pair doubles some questions, and sometimes gives one of the two operations up. Messages of one kind are slow: as long as there are others, these are heard first, and then the coordinator repeats itself once.
 func (x troubles) pair(w impl.WldWorld, a, b impl.OpOp) {
-	next := func(e impl.EvEvent) {
-		s := stepOf(w, e)
-		x.step(s)
-		w = s.after
+	x.t.Helper()
+	for _, e := range []impl.EvEvent{evDo(a), evDo(b), evTwice(x.r.Intn(4)), evTwice(x.r.Intn(4))} {
+		w = x.next(w, e)
 	}
-	next(evDo(a))
-	next(evDo(b))
-	next(evTwice(x.r.Intn(len(w.Net))))
-	next(evTwice(x.r.Intn(len(w.Net))))
 	given, slow, repeated := x.r.Intn(24), impl.MsgAsk+x.r.Intn(impl.MsgWhat), false
-	for n := 0; len(w.Net) > 0; n++ {
+	for n := 0; n < enough && len(w.Net) > 0; n++ {
 		if n == given {
-			next(evGive(len(w.Ops) - 1 - n%2))
+			w = x.next(w, evGive(len(w.Ops)-1-n%2))
 		}
 		at, found := fastOne(x.r, w.Net, slow)
 		if !found && !repeated {
-			repeated = true
-			next(evTick(impl.PlcFront))
+			w, repeated = x.next(w, evTick(impl.PlcFront)), true
 			continue
 		}
-		next(evHear(at))
+		w = x.next(w, evHear(at))
 	}
 }
 

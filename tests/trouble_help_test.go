@@ -205,6 +205,7 @@ func troubleLabels() []string {
 
 // troubles hands one of so many steps to a check, and the first ones of each kind of trouble, and counts these.
 type troubles struct {
+	t     *testing.T
 	r     *rand.Rand
 	oneOf int
 	check func(r *rand.Rand, s worldStep)
@@ -213,7 +214,12 @@ type troubles struct {
 
 const firstOnes = 4
 
+// step gives up where there are no logs: the system was invalid before the step, so that this is the zero value.
 func (x troubles) step(s worldStep) {
+	x.t.Helper()
+	if len(s.after.Disks) != 3 {
+		x.t.Fatalf("invalid before: %v", s)
+	}
 	taken := x.r.Intn(x.oneOf) == 0
 	labels := s.labels()
 	for _, label := range labels {
@@ -228,28 +234,35 @@ func (x troubles) step(s worldStep) {
 	x.check(x.r, s)
 }
 
+// next executes one event.
+func (x troubles) next(w impl.WldWorld, e impl.EvEvent) impl.WldWorld {
+	x.t.Helper()
+	s := stepOf(w, e)
+	x.step(s)
+	return s.after
+}
+
 // storm executes random events.
 func (x troubles) storm(w impl.WldWorld, c weather, length int) {
+	x.t.Helper()
 	for range length {
-		s := stepOf(w, c.event(x.r, w))
-		x.step(s)
-		w = s.after
+		w = x.next(w, c.event(x.r, w))
 	}
 }
 
 // everyTrouble hands steps of runs from the initial system on to a check, and wants all kinds of trouble among them: messages that are lost, doubled and heard out of order, operations that are refused, given up and under way together, and crashes of each place at every step of a commit.
 func everyTrouble(t *testing.T, seed int64, oneOf int, check func(r *rand.Rand, s worldStep)) {
 	t.Helper()
-	x := troubles{r: rand.New(rand.NewSource(seed)), oneOf: oneOf, check: check, count: map[string]int{}}
+	x := troubles{t: t, r: rand.New(rand.NewSource(seed)), oneOf: oneOf, check: check, count: map[string]int{}}
 	for i := range 36 {
 		if x.storm(impl.WldNew(), weathers()[i%len(weathers())], impl.EvMaxRun); t.Failed() {
 			return
 		}
 	}
-	if x.everyPair(t); t.Failed() {
+	if x.everyPair(); t.Failed() {
 		return
 	}
-	if x.everyFailure(t); t.Failed() {
+	if x.everyFailure(); t.Failed() {
 		return
 	}
 	for _, label := range troubleLabels() {

@@ -46,14 +46,15 @@ func wantComposed(t *testing.T, w impl.WldWorld, events []impl.EvEvent, cuts ...
 }
 
 // eventsOf is events as they come in a run.
-func eventsOf(r *rand.Rand, w impl.WldWorld, length int) []impl.EvEvent {
+func eventsOf(t *testing.T, r *rand.Rand, w impl.WldWorld, length int) []impl.EvEvent {
+	t.Helper()
 	var out []impl.EvEvent
 	for range length {
 		e := anyWeather(r).event(r, w)
 		if r.Intn(10) == 0 {
 			e = eventOf(r, w, anyKind(r))
 		}
-		out, w = append(out, e), impl.WldStep(w, e)
+		out, w = append(out, e), mustRun(t, w, e)
 	}
 	return out
 }
@@ -63,7 +64,7 @@ func TestPromise49(t *testing.T) {
 	t.Parallel()
 	r := rand.New(rand.NewSource(949))
 	for range worldRounds {
-		events := eventsOf(r, impl.WldNew(), impl.EvMaxRun)
+		events := eventsOf(t, r, impl.WldNew(), impl.EvMaxRun)
 		wantComposed(t, impl.WldNew(), events, 0, 1, 2, r.Intn(len(events)), r.Intn(len(events)), impl.EvMaxRun-1, impl.EvMaxRun)
 	}
 	everyWorld(t, 950, func(r *rand.Rand, w impl.WldWorld) {
@@ -73,7 +74,7 @@ func TestPromise49(t *testing.T) {
 		for _, e := range oneOfEach(r, w) {
 			wantWorld(t, fmt.Sprint(w, e), impl.WldRun(w, []impl.EvEvent{e}), impl.WldStep(w, e))
 		}
-		events := eventsOf(r, w, 1+r.Intn(8))
+		events := eventsOf(t, r, w, 1+r.Intn(8))
 		wantComposed(t, w, events, 0, r.Intn(len(events)+1), len(events))
 	})
 }
